@@ -1,6 +1,7 @@
 package tests
 
 import (
+	"maps"
 	"slices"
 	"testing"
 
@@ -116,11 +117,11 @@ func partials() []impl.System {
 	return list
 }
 
-// samples returns the named systems and the partial ones.
+// samples returns the named systems and the partial ones, in the same order in each run.
 func samples(t *testing.T) []impl.System {
 	t.Helper()
 	list := partials()
-	for name := range namedTexts() {
+	for _, name := range slices.Sorted(maps.Keys(namedTexts())) {
 		list = append(list, named(t, name))
 	}
 	return list
