@@ -68,6 +68,11 @@ func isPoint(v int64, a int64) bool {
 	return 0 <= a && a < v
 }
 
+// areTwoPoints reports whether a and b are different points of v.
+func areTwoPoints(v int64, a int64, b int64) bool {
+	return isPoint(v, a) && isPoint(v, b) && a != b
+}
+
 // isBlock reports whether b has three different points of v in ascending order.
 func isBlock(v int64, b Block) bool {
 	return 0 <= b[0] && b[0] < b[1] && b[1] < b[2] && b[2] < v
@@ -206,7 +211,7 @@ func ThirdPoint(x System, a int64, b int64) (int64, int64) {
 	if !IsSystem(x) {
 		return 0, ErrInvalid
 	}
-	if !isPoint(x.Points, a) || !isPoint(x.Points, b) || a == b {
+	if !areTwoPoints(x.Points, a, b) {
 		return 0, ErrRange
 	}
 	for _, block := range blocksWith(x, a) {
