@@ -49,6 +49,26 @@ func pairsIn(blocks []Block) map[pair]bool {
 	return set
 }
 
+// setOf returns the set of the blocks of a list.
+func setOf(blocks []Block) map[Block]bool {
+	set := make(map[Block]bool, len(blocks))
+	for _, b := range blocks {
+		set[b] = true
+	}
+	return set
+}
+
+// blocksIn returns the blocks of a list that are in a set.
+func blocksIn(blocks []Block, set map[Block]bool) []Block {
+	var list []Block
+	for _, b := range blocks {
+		if set[b] {
+			list = append(list, b)
+		}
+	}
+	return list
+}
+
 // isBlockFree reports whether no pair of b is taken.
 func isBlockFree(taken map[pair]bool, b Block) bool {
 	for _, p := range pairsOf(b) {
@@ -355,17 +375,7 @@ func CommonBlocks(x System, y System) ([]Block, int64) {
 	if x.Points != y.Points {
 		return nil, ErrRange
 	}
-	inSecond := make(map[Block]bool, len(y.Blocks))
-	for _, b := range y.Blocks {
-		inSecond[b] = true
-	}
-	var common []Block
-	for _, b := range x.Blocks {
-		if inSecond[b] {
-			common = append(common, b)
-		}
-	}
-	return common, ErrNone
+	return blocksIn(x.Blocks, setOf(y.Blocks)), ErrNone
 }
 
 // FreeBlocks returns all blocks that can be put in, ascending, and ErrNone.
