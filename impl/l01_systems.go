@@ -98,14 +98,18 @@ func isBlock(v int64, b Block) bool {
 	return 0 <= b[0] && b[0] < b[1] && b[1] < b[2] && b[2] < v
 }
 
-// isPointSet reports whether the points are an ascending list of different points of v.
-func isPointSet(v int64, points []int64) bool {
-	for i, a := range points {
-		if !isPoint(v, a) || i > 0 && points[i-1] >= a {
+// isNumberSet reports whether the numbers are an ascending list of different ones in 0..n - 1.
+func isNumberSet(n int64, numbers []int64) bool {
+	for i, a := range numbers {
+		if a < 0 || a >= n || i > 0 && numbers[i-1] >= a {
 			return false
 		}
 	}
 	return true
+}
+
+func isBlockNumber(x System, i int64) bool {
+	return 0 <= i && i < int64(len(x.Blocks))
 }
 
 // isRenumbering reports whether p has each of the numbers 0 to v - 1 once.
@@ -309,7 +313,7 @@ func TakeBlock(x System, i int64) (System, int64) {
 	if !IsSystem(x) {
 		return System{}, ErrInvalid
 	}
-	if i < 0 || i >= int64(len(x.Blocks)) {
+	if !isBlockNumber(x, i) {
 		return System{}, ErrRange
 	}
 	var rest []Block
@@ -338,7 +342,7 @@ func BlocksOn(x System, points []int64) (System, int64) {
 	if !IsSystem(x) {
 		return System{}, ErrInvalid
 	}
-	if len(points) < leastPoints || !isPointSet(x.Points, points) {
+	if len(points) < leastPoints || !isNumberSet(x.Points, points) {
 		return System{}, ErrRange
 	}
 	part := System{Points: int64(len(points))}
