@@ -1,6 +1,7 @@
 package tests
 
 import (
+	"runtime"
 	"slices"
 	"testing"
 
@@ -69,4 +70,17 @@ func wantValue[T comparable](t *testing.T, what string, got T, code int64, want 
 	if code != wantCode || got != want {
 		t.Errorf("%s = %v, %d; want %v, %d", what, got, code, want, wantCode)
 	}
+}
+
+// wantNoGoroutines checks that no goroutine goes on behind some calls, before which there were so many.
+func wantNoGoroutines(t *testing.T, before int) {
+	t.Helper()
+	// One that has done its last work may still be on its way out.
+	for range 1000 {
+		if runtime.NumGoroutine() <= before {
+			return
+		}
+		runtime.Gosched()
+	}
+	t.Errorf("%d goroutines more than before", runtime.NumGoroutine()-before)
 }

@@ -619,14 +619,7 @@ func TestClassesLeaveNothing(t *testing.T) {
 	}
 	callsOfClasses(impl.System{})
 	callsOfClasses(impl.System{Points: 15})
-	// One that has sent its last set may still be on its way out.
-	for range 1000 {
-		if runtime.NumGoroutine() <= before {
-			return
-		}
-		runtime.Gosched()
-	}
-	t.Errorf("%d goroutines more than before", runtime.NumGoroutine()-before)
+	wantNoGoroutines(t, before)
 }
 
 // TestClassesAtOnce asks for classes from several sides at once, as nothing is kept between calls.

@@ -604,14 +604,7 @@ func TestPartsLeaveNothing(t *testing.T) {
 			impl.ColourNumber(x)
 		}
 	}
-	// One that has done its last work may still be on its way out.
-	for range 1000 {
-		if runtime.NumGoroutine() <= before {
-			return
-		}
-		runtime.Gosched()
-	}
-	t.Errorf("%d goroutines more than before", runtime.NumGoroutine()-before)
+	wantNoGoroutines(t, before)
 }
 
 // TestPartsAtOnce asks for parts from several sides at once, as nothing is kept between calls.
