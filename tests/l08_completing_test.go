@@ -239,9 +239,9 @@ func TestMaxMissing(t *testing.T) {
 	wantCompletions(t, "9 points, all missing", impl.System{Points: 9}, systemsOf(t, 9))
 }
 
-// TestMaxCompletions takes the systems with the most completions that there are below MaxCompletions, as
-// far as is known, and those above it: 9 points without blocks. No system has just 200 or 201, as far as is
-// known.
+// TestMaxCompletions takes the one system that is known to have more than MaxCompletions completions, 9
+// points without blocks, and those that are known to have the most below it, 9 points and a block. (A
+// search for parts of full systems of 13 and 15 points found none with more than 84.)
 func TestMaxCompletions(t *testing.T) {
 	list, code := impl.CompletionsOf(impl.System{Points: 9})
 	wantAll(t, "9 points without blocks", list, code, nil, impl.ErrLimit)
