@@ -65,6 +65,26 @@ func TestPromise15Groups(t *testing.T) {
 	}
 }
 
+// TestPromise15AllKinds takes all full systems, as there are no others but isomorphic ones: one kind of 3,
+// 7 and 15 points each has a loop that is a group.
+func TestPromise15AllKinds(t *testing.T) {
+	for v, want := range map[int64]int{3: 1, 7: 1, 9: 0, 13: 0, 15: 1} {
+		groups := 0
+		for _, x := range allKinds(t, v) {
+			n := paschCount(t, x)
+			if isGroup(t, x) {
+				groups++
+				wantValue(t, "the Pasch of a group", 24*n, impl.ErrNone, openTriples(v), impl.ErrNone)
+			} else if 24*n >= openTriples(v) {
+				t.Errorf("%v has %d Pasch, and no group", x, n)
+			}
+		}
+		if groups != want {
+			t.Errorf("of %d points there are %d groups", v, groups)
+		}
+	}
+}
+
 // TestPromise15MostPasch compares systems with as many points: none has more Pasch than those whose loops
 // are groups, and those that have as many are groups, too.
 func TestPromise15MostPasch(t *testing.T) {
