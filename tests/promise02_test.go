@@ -92,3 +92,23 @@ func TestPromise2Cyclic(t *testing.T) {
 		}
 	}
 }
+
+// TestPromise2Numbers takes the made systems of at most 9 points: only full systems have numbers, and all of
+// them have one, which leads back. Turned systems are full, too.
+func TestPromise2Numbers(t *testing.T) {
+	numbered := 0
+	for _, x := range madeSystems(t) {
+		for k := range x.Points {
+			y, code := impl.TurnSystem(x, k)
+			wantFull(t, "a made system, turned", y, code, x.Points)
+		}
+		if x.Points > 9 {
+			continue
+		}
+		numbered++
+		wantSystem(t, "SystemAt of NumberOfSystem", systemAt(t, x.Points, numberOf(t, x)), impl.ErrNone, x, impl.ErrNone)
+	}
+	if numbered < 6 {
+		t.Errorf("samples: %d made systems have numbers", numbered)
+	}
+}
